@@ -4,6 +4,8 @@ package groove
 import (
 	"groove/api"
 	"groove/covering"
+	"groove/frames"
+	"groove/rows"
 	"groove/words"
 )
 
@@ -38,7 +40,15 @@ func Cover(samples string, bad ...int) (string, api.Errno) {
 }
 
 // Encode writes samples into a track (P4).
-func Encode(samples string, depth int) (string, api.Errno) { return "", api.OK }
+func Encode(samples string, depth int) (string, api.Errno) {
+	if len(samples) > api.MaxSamples {
+		return "", api.ErrLarge
+	}
+	if depth < 1 || depth > api.MaxDepth {
+		return "", api.ErrDepth
+	}
+	return frames.Track(frames.Lay(rows.Cut(samples), depth)), api.OK
+}
 
 // Decode reads samples from a track (P5).
 func Decode(bits string, count int, depth int) (api.Track, api.Errno) { return api.Track{}, api.OK }

@@ -58,17 +58,22 @@ func zerosRunLong(number int) bool {
 	return false
 }
 
-// Text tells the word of a byte, and whether b is a byte.
+// Text tells the word of a number, and whether that is a byte.
 func Text(b int) (string, bool) {
 	if b < 0 || b >= bytesInAll {
 		return "", false
 	}
+	return OfByte(byte(b)), true
+}
+
+// OfByte tells the word of a byte.
+func OfByte(b byte) string {
 	number := tables.words[b]
 	text := make([]byte, Size)
 	for place := range text {
 		text[place] = '0' + byte(number>>(Size-1-place)&1)
 	}
-	return string(text), true
+	return string(text)
 }
 
 // Byte tells the byte of a word, and whether the text is the word of one.
