@@ -14,6 +14,17 @@ func Mark(count int, places []int) ([]bool, bool) {
 	return marks, true
 }
 
+// Places tells the places that are marked, rising.
+func Places(marks []bool) []int {
+	var places []int
+	for place, marked := range marks {
+		if marked {
+			places = append(places, place)
+		}
+	}
+	return places
+}
+
 // Cover tells the samples, those that are bad covered. There is a mark for
 // each sample.
 func Cover(samples string, bad []bool) string {

@@ -1,4 +1,5 @@
-// Package frames: rows laid down over frames, and the bits of these.
+// Package frames: rows laid down over frames, the bits of these, and frames
+// that are found in a track.
 package frames
 
 import (
@@ -25,7 +26,7 @@ type Frame struct {
 
 // Lay lays rows down over frames, the symbols of each depth frames apart.
 func Lay(all []rows.Row, depth int) []Frame {
-	frames := make([]Frame, count(len(all), depth))
+	frames := make([]Frame, Count(len(all), depth))
 	for number := range frames {
 		frames[number].Number = byte(number)
 	}
@@ -37,7 +38,8 @@ func Lay(all []rows.Row, depth int) []Frame {
 	return frames
 }
 
-func count(rowCount, depth int) int {
+// Count tells how many frames rows are laid down over.
+func Count(rowCount, depth int) int {
 	if rowCount == 0 {
 		return 0
 	}

@@ -2,9 +2,12 @@
 package groove
 
 import (
+	"strings"
+
 	"groove/api"
 	"groove/covering"
 	"groove/frames"
+	"groove/reading"
 	"groove/rows"
 	"groove/words"
 )
@@ -44,11 +47,30 @@ func Encode(samples string, depth int) (string, api.Errno) {
 	if len(samples) > api.MaxSamples {
 		return "", api.ErrLarge
 	}
-	if depth < 1 || depth > api.MaxDepth {
+	if !isDepth(depth) {
 		return "", api.ErrDepth
 	}
 	return frames.Track(frames.Lay(rows.Cut(samples), depth)), api.OK
 }
 
 // Decode reads samples from a track (P5).
-func Decode(bits string, count int, depth int) (api.Track, api.Errno) { return api.Track{}, api.OK }
+func Decode(bits string, count int, depth int) (api.Track, api.Errno) {
+	if len(bits) > api.MaxBits || hasOtherLetters(bits) {
+		return api.Track{}, api.ErrBits
+	}
+	if count < 0 || count > api.MaxSamples {
+		return api.Track{}, api.ErrCount
+	}
+	if !isDepth(depth) {
+		return api.Track{}, api.ErrDepth
+	}
+	return reading.Track(bits, count, depth), api.OK
+}
+
+func isDepth(depth int) bool {
+	return depth >= 1 && depth <= api.MaxDepth
+}
+
+func hasOtherLetters(bits string) bool {
+	return strings.Trim(bits, "01") != ""
+}

@@ -1,4 +1,5 @@
-// Package rows: samples cut into rows, each with a check.
+// Package rows: samples cut into rows, each with a check, and rows that were
+// found in a track.
 package rows
 
 import "groove/api"
@@ -15,7 +16,7 @@ type Row [Symbols]byte
 
 // Cut tells the rows that the samples are cut into.
 func Cut(samples string) []Row {
-	all := make([]Row, count(len(samples)))
+	all := make([]Row, Count(len(samples)))
 	for place := range len(samples) {
 		row := &all[place/api.RowSize]
 		row[place%api.RowSize] = samples[place]
@@ -26,6 +27,7 @@ func Cut(samples string) []Row {
 	return all
 }
 
-func count(samples int) int {
+// Count tells how many rows it takes to hold samples.
+func Count(samples int) int {
 	return (samples + api.RowSize - 1) / api.RowSize
 }

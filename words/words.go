@@ -91,6 +91,24 @@ func Byte(text string) (int, bool) {
 	return 0, false
 }
 
+// Found is a word as it was found in a track: the one of a byte, or, as the
+// zero Found, lost.
+type Found struct {
+	Byte  byte
+	Known bool
+}
+
+// Find tells what the text of a word is found to be.
+func Find(text string) Found {
+	b, ok := Byte(text)
+	return Found{byte(b), ok}
+}
+
+// Lost tells whether the word is no byte's, or was never found.
+func (found Found) Lost() bool {
+	return found == Found{}
+}
+
 func parse(text string) (uint16, bool) {
 	if len(text) != Size {
 		return 0, false
